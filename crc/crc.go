@@ -1,0 +1,48 @@
+// Package crc is layer 1: a check of bytes. See shared/doc/01-crc.md.
+package crc
+
+import "sync"
+
+// turn is what is put to a register, where its lowest bit and the bit that goes in differ.
+const turn uint32 = 0xEDB88320
+
+// A byte's eight steps hang on the register's lowest byte and on the byte alone, so one table of 256 stands for all.
+var (
+	once  sync.Once
+	steps [256]uint32
+)
+
+// fill makes the steps of all bytes.
+func fill() {
+	for c := range 256 {
+		steps[c] = bits(uint32(c))
+	}
+}
+
+// bits moves a register down by eight bits, into which only noughts go.
+func bits(r uint32) uint32 {
+	for range 8 {
+		low := r & 1
+		r >>= 1
+		if low == 1 {
+			r ^= turn
+		}
+	}
+	return r
+}
+
+// Step tells a register into which a byte has gone.
+func Step(r uint32, c byte) uint32 {
+	once.Do(fill)
+	return steps[byte(r)^c] ^ r>>8
+}
+
+// Sum tells the check of bytes.
+func Sum(b []byte) uint32 {
+	once.Do(fill)
+	r := ^uint32(0)
+	for _, c := range b {
+		r = steps[byte(r)^c] ^ r>>8
+	}
+	return ^r
+}
