@@ -262,6 +262,9 @@ func TestErrors(t *testing.T) {
 			t.Error(fuel, left, e)
 		}
 	}
+	if _, left, e := Run("for i = 0 to 1125899906842623\nend", nil, math.MaxInt); e != api.OK || left != math.MaxInt-3-1<<50 {
+		t.Error(left, e)
+	}
 	if _, left, e := Run("", nil, math.MaxInt); e != api.OK || left != math.MaxInt {
 		t.Error(left, e)
 	}

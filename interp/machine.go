@@ -219,6 +219,10 @@ func (m *machine) turns(s recipe.Step) {
 	from, ok := numbers.Whole(l[0].Num)
 	to, ok2 := numbers.Whole(l[1].Num)
 	must(ok && ok2)
+	if len(s.Body) == 0 && from < to { // all turns but the last one leave nothing behind, and may be too many to wait for
+		m.spend(to - from)
+		from = to
+	}
 	for i := from; i <= to; i++ {
 		m.spend(1)
 		m.names[s.Name] = number(float64(i))
