@@ -84,6 +84,11 @@ func TestGet(t *testing.T) {
 	if n, e := Get(make([]byte, api.MaxArt+1)); e != api.ErrLimit || !files.Same(n, api.Node{}) {
 		t.Errorf("too long: %d", e)
 	}
+	longest := full(api.MaxArt)
+	b, _ := Put(longest)
+	if n, e := Get(b); e != api.OK || !files.Same(n, longest) {
+		t.Errorf("the longest one: %d", e)
+	}
 	good := "TAR1D\x00\x02\x00\x00\x00\x01aF\x00\x00\x00\x01x\x00\x00\x00\x01bL\x00\x00\x00\x01y"
 	if n, e := Get([]byte(good)); e != api.OK || !files.Same(n, dir("a", file("x"), "b", api.Node{Kind: api.Link, Data: "y"})) {
 		t.Fatal(n, e)

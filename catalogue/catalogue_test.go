@@ -141,7 +141,7 @@ func TestCheck(t *testing.T) {
 	if n, e := Check([]api.Variant{v, {}}); n != 1 || e != api.ErrArg {
 		t.Error("what may not be comes ahead of the length", n, e)
 	}
-	v.Recipe = strings.Repeat("\n", api.MaxText)
+	v.Recipe = strings.Repeat("\n", 2*api.MaxText)
 	if n, e := Check([]api.Variant{v}); n != 0 || e != api.ErrLimit {
 		t.Error("a long recipe", n, e)
 	}

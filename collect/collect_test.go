@@ -113,6 +113,9 @@ func TestErrors(t *testing.T) {
 		}
 	}
 	a, b := p.put(t, "a"), p.put(t, "b")
+	if l, e := Collect(p.b, nil); l != nil || e != api.ErrNil || len(p.b.Objects()) != 2 {
+		t.Error("without a store", e)
+	}
 	p.b.Keep(1, []byte("junk"), true)
 	if l, e := Dead(p.b); l != nil || e != api.ErrJournal {
 		t.Error(e)

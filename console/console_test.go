@@ -60,12 +60,15 @@ func TestLines(t *testing.T) {
 		":junk / install 9 a / install 9 a@1":                                                                "ok / error 150 / error 150",
 		"install 9 a@1 / remove 9 zz / remove 9 .":                                                           "error 2 / error 5 / error 2",
 		"install 9 c / fail 0 / install 9 a / list / objects / install 9 c / collect / verify / repair 1 / show 1 / rollback / switch 1 / delete 1 / root r 0 / unroot r / remove 1 a / spoil 0 / fail 1 / used": "gen 1 / ok / error 40 / none / none / none / none / none / none / none / none / none / none / none / none / none / none / ok / used USED",
-		"install 9 c / fail 0 / install 9 a / crash / list / install 9 a":     "gen 1 / ok / error 40 / ok / gens 1 / current 1 / gen 2",
-		"install 9 c / fail 0 / install 9 a / disk 4000 / list / install 9 c": "gen 1 / ok / error 40 / ok / gens / gen 1",
-		"install 9 c / fail 0 / spoil 0 / list / crash 1 2 3 / list":          "gen 1 / ok / ok / none / ok / gens 1 / current 1",
-		"fail 0 / fail -1 / install 9 c":                                      "ok / ok / gen 1",
-		"crash / crash 0 / crash -1 5 999999999 / list":                       "ok / ok / ok / gens",
-		"install 9 c / fail 3 / crash / install 9 a":                          "gen 1 / ok / ok / gen 2",
+		"install 9 c / fail 0 / install 9 a / crash / list / install 9 a":          "gen 1 / ok / error 40 / ok / gens 1 / current 1 / gen 2",
+		"install 9 c / fail 0 / install 9 a / disk 4000 / list / install 9 c":      "gen 1 / ok / error 40 / ok / gens / gen 1",
+		"install 9 c / fail 0 / spoil 0 / list / crash 1 2 3 / list":               "gen 1 / ok / ok / none / ok / gens 1 / current 1",
+		"install 9 c / remove 9 c / delete 1 / fail 0 / collect / crash / collect": "gen 1 / gen 2 / ok / ok / error 40 / ok / gone 1 c-1",
+		"install 9 b / spoil 0 / fail 0 / repair 9 / crash / repair 9":             "gen 1 / ok / ok / error 40 / ok / fixed 1 0",
+		"install 9 c / fail 0 / spoil 0 / verify":                                  "gen 1 / ok / ok / none",
+		"fail 0 / fail -1 / install 9 c":                                           "ok / ok / gen 1",
+		"crash / crash 0 / crash -1 5 999999999 / list":                            "ok / ok / ok / gens",
+		"install 9 c / fail 3 / crash / install 9 a":                               "gen 1 / ok / ok / gen 2",
 	} {
 		got := run(t, base+" / "+script)
 		got = strings.TrimPrefix(strings.TrimPrefix(got, oks), " / ")
@@ -87,9 +90,33 @@ func TestLines(t *testing.T) {
 	check(t, ":# a remark / : / :package a 1 / :| let a = \" / install 9 a", "ok / ok / ok / ok / error 220")
 }
 
+// P31.1: how great the disk is, and how much a spoilt file has
+func TestDisk(t *testing.T) {
+	big := ":|let s = \"x\" / :|for i = 1 to 16 / :|let s = s .. s / :|end / :|for i = 1 to 15 / :|file str(i) = s / :|end"
+	script := "clear"
+	for i := range 5 {
+		script += " / :package p" + strconv.Itoa(i) + " 1 / " + big
+	}
+	for i := range 5 {
+		script += " / install 99999 p" + strconv.Itoa(i)
+	}
+	if s := run(t, script); !strings.HasSuffix(s, "ok / gen 1 / gen 2 / gen 3 / gen 4 / error 41") {
+		t.Error(s)
+	}
+	s := strings.Split(run(t, base+" / install 9 b / used / spoil 0 / used"), " / ")
+	before, _ := strconv.Atoi(strings.Fields(s[7])[1])
+	after, _ := strconv.Atoi(strings.Fields(s[9])[1])
+	if whole := len("TAR1D\x00\x01\x00\x00\x00\x01yF\x00\x00\x00\x012"); before-after != whole-3 {
+		t.Error(before, after)
+	}
+	if MaxScript != 65536 {
+		t.Error("MaxScript")
+	}
+}
+
 // P31.1: lines that are none
 func TestNone(t *testing.T) {
-	for _, line := range []string{"fly", " ", " list", "list ", "list 1", "lists", "List", "clear 1", "disk", "disk x", "disk 1 2", "install", "install 9", "install a", "install 9  a", "install 9 a ", "install  9 a", "install x a", "remove", "remove 9", "rollback 1", "switch", "switch x", "switch 1 2", "delete", "delete 01", "root", "root r", "root r x", "root 1 2 3", "unroot", "unroot a b", "collect 1", "verify 1", "repair", "repair x", "repair 1 2", "show", "show 1 2", "objects 1", "spoil", "spoil x", "fail", "fail x", "fail 1 2", "crash x", "crash 1 x", "crash ", "used 1", "switch 00", "switch -0", "switch -", "switch +1", "switch 1000000000", "switch -1000000000", "switch 99999999999999999999999", "switch 1.0", "switch --1", "switch 1-", "switch 0x1", "switch -01", "\tlist", "list\r", "list\t"} {
+	for _, line := range []string{"fly", " ", " list", "list ", "list 1", "lists", "List", "clear 1", "disk", "disk x", "disk 1 2", "install", "install 9", "install a", "install 9  a", "install 9 a ", "install  9 a", "install x a", "remove", "remove 9", "rollback 1", "switch", "switch x", "switch 1 2", "delete", "delete 01", "root", "root r", "root r x", "root 1 2 3", "unroot", "unroot a b", "collect 1", "verify 1", "repair", "repair x", "repair 1 2", "show", "show 1 2", "objects 1", "spoil", "spoil x", "spoil 1 2", "unroot", "root r 1 2", "fail", "fail x", "fail 1 2", "crash x", "crash 1 x", "crash ", "used 1", "switch 00", "switch -0", "switch -", "switch +1", "switch 1000000000", "switch -1000000000", "switch 99999999999999999999999", "switch 1.0", "switch --1", "switch 1-", "switch 0x1", "switch -01", "\tlist", "list\r", "list\t"} {
 		check(t, line, "error 2")
 		// also where there is no profile; and no other answer changes
 		check(t, "fail 0 / :package a 1 / install 9 a / "+line+" / list / crash / "+line+" / list", "ok / ok / error 40 / error 2 / none / ok / error 2 / gens")

@@ -39,10 +39,9 @@ func Step(r uint32, c byte) uint32 {
 
 // Sum tells the check of bytes.
 func Sum(b []byte) uint32 {
-	once.Do(fill)
 	r := ^uint32(0)
 	for _, c := range b {
-		r = steps[byte(r)^c] ^ r>>8
+		r = Step(r, c)
 	}
 	return ^r
 }

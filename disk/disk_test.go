@@ -91,6 +91,8 @@ func TestCalls(t *testing.T) {
 	want(t, d.Append("a", []byte("12")), api.OK)
 	want(t, d.Append("a", []byte("345")), api.OK)
 	read(t, d, "a", "12345")
+	want(t, d.Cut("a", 5), api.OK)
+	read(t, d, "a", "12345")
 	want(t, d.Cut("a", 4), api.OK)
 	read(t, d, "a", "1234")
 	want(t, d.Append("b", []byte("xy")), api.OK)
@@ -102,8 +104,11 @@ func TestCalls(t *testing.T) {
 	want(t, d.Rename("b", "b"), api.OK)
 	read(t, d, "b", "1234")
 	want(t, d.Remove("b"), api.OK)
-	if d.Used() != 0 || len(d.Names()) != 0 || d.Steps() != 7 {
+	if d.Used() != 0 || len(d.Names()) != 0 || d.Steps() != 8 {
 		t.Fatal("removed", d.Steps())
+	}
+	if MaxDisk != 8388608 {
+		t.Fatal("MaxDisk")
 	}
 	want(t, d.Append("big", make([]byte, MaxDisk)), api.OK)
 	want(t, d.Append("big", []byte("1")), api.ErrLimit)

@@ -104,16 +104,22 @@ func TestPut(t *testing.T) {
 
 // P26.2, P26.3: nil
 func TestNil(t *testing.T) {
-	_, e := Next(nil)
+	if MaxRows != 1000 || MaxBytes != 60000 {
+		t.Fatal("limits")
+	}
+	n, e := Next(nil)
 	want(t, e, api.ErrNil)
-	_, e = Make(nil, Gen{Objects: []string{"x"}})
+	n2, e := Make(nil, Gen{Objects: []string{"x"}})
 	want(t, e, api.ErrNil)
 	_, e = Load(nil, 1)
 	want(t, e, api.ErrNil)
-	_, _, e = Current(nil)
+	n3, _, e := Current(nil)
 	want(t, e, api.ErrNil)
-	_, e = Rollback(nil)
+	n4, e := Rollback(nil)
 	want(t, e, api.ErrNil)
+	if n+n2+n3+n4 != 0 {
+		t.Fatal("with an error, a number")
+	}
 	_, e = Live(nil)
 	want(t, e, api.ErrNil)
 }

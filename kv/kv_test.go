@@ -175,8 +175,15 @@ func TestRefused(t *testing.T) {
 	if x.Len() != 0 || d.Steps() != 0 || x.Broken() != api.OK {
 		t.Fatal("what is refused changes something")
 	}
-	wide[15].Value = nil
+	// just so many bytes as a record may have, and one more
+	size := 4 + 16*7 + 10 + 6*2 + 15*MaxValue
+	wide[15].Value = make([]byte, wal.MaxRecord-size+1)
+	want(t, x.Apply(wide), api.ErrLimit)
+	wide[15].Value = wide[15].Value[1:]
 	want(t, x.Apply(wide), api.OK)
+	if MaxKey != 255 || MaxValue != 65536 || MaxBatch != 1000 || Big != 262144 {
+		t.Fatal("limits")
+	}
 	want(t, x.Apply([]Op{{Key: long[1:], Value: big[1:]}, {Key: "gone", Value: big, Gone: true}}), api.OK)
 	if x.Len() != 17 {
 		t.Fatal(x.Len())
@@ -204,6 +211,20 @@ func TestBig(t *testing.T) {
 	want(t, x.Apply([]Op{put("k", value)}), api.OK)
 	if !slices.Equal(d.Names(), []string{"ck"}) {
 		t.Fatal(d.Names())
+	}
+	// at just Big it is left as it is
+	d = disk.New(quota)
+	x = open(t, d)
+	for range 4 {
+		want(t, x.Apply([]Op{put("k", value)}), api.OK)
+	}
+	want(t, x.Apply([]Op{{Key: "k", Value: make([]byte, Big-d.Used()-17-4-7-1)}}), api.OK)
+	if d.Used() != Big || slices.Contains(d.Names(), "ck") {
+		t.Fatal("at Big", d.Used(), d.Names())
+	}
+	want(t, x.Apply(nil), api.OK)
+	if !slices.Equal(d.Names(), []string{"ck"}) {
+		t.Fatal("above Big", d.Names())
 	}
 	// no room for the batch: it is made short, and the batch is put
 	d = disk.New(400000)

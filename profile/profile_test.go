@@ -321,7 +321,7 @@ func TestNil(t *testing.T) {
 	want(t, e, api.ErrNil)
 	_, e = p.Tree("")
 	want(t, e, api.ErrNil)
-	if _, ok := p.Current(); ok || p.Generations() != nil || p.Objects() != nil || p.Refs("") != nil || p.Roots() != nil {
+	if n, ok := p.Current(); n != 0 || ok || p.Generations() != nil || p.Objects() != nil || p.Refs("") != nil || p.Roots() != nil {
 		t.Fatal("something")
 	}
 }

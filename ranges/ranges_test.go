@@ -115,6 +115,9 @@ func TestBest(t *testing.T) {
 			t.Errorf("%s: %d, want %d", r, i, want)
 		}
 	}
+	if Best(nil, []string{"2", "1", "2"}) != 0 {
+		t.Error("the first one")
+	}
 	if Best(nil, l) != 5 || Best(nil, nil) != -1 || Best(nil, []string{"x"}) != -1 {
 		t.Error("none")
 	}

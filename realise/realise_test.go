@@ -140,6 +140,7 @@ func TestErrors(t *testing.T) {
 	}{
 		{api.Drv{Name: ".x", Inputs: []string{none}, Recipe: long}, 7, 7, api.ErrArg},
 		{api.Drv{Name: "x", Inputs: []string{none}, Recipe: long}, 7, 7, api.ErrLimit},
+		{api.Drv{Name: "x", Recipe: long[:refdb.MaxDeriver-4-5-2-4+1]}, 7, 7, api.ErrLimit},
 		{api.Drv{Name: "x", Inputs: []string{none}, Recipe: "junk"}, -7, -7, api.ErrNone},
 		{api.Drv{Name: "x", Recipe: "junk"}, 7, 7, api.ErrRecipe},
 		{api.Drv{Name: "x", Recipe: "fail 1"}, 7, 5, api.ErrFault},
@@ -148,6 +149,10 @@ func TestErrors(t *testing.T) {
 		if o, left, e := Build(p.b, p.s, x.d, x.fuel); o != "" || left != x.left || e != x.want {
 			t.Errorf("%d: %q, %d, %d", i, o, left, e)
 		}
+	}
+	q := fresh(t)
+	if _, left, e := Build(q.b, q.s, api.Drv{Name: "x", Recipe: long[:refdb.MaxDeriver-4-5-2-4]}, 7); left != 7 || e != api.OK {
+		t.Error("the longest deriver", e)
 	}
 	if o, left, e := Build(nil, p.s, d, 7); o != "" || left != 7 || e != api.ErrNil {
 		t.Error(e)
@@ -278,6 +283,25 @@ func TestAll(t *testing.T) {
 	// two variants of one derivation: one input
 	same := parse(t, "package x 1-1\npackage x-1 1\npackage y 1\nneeds x *\nneeds x-1 *\n|let a = 1\n")
 	if o, _, e := All(p.b, p.s, same, []int{0, 1, 2}, 50); e != api.OK || o[0] != o[1] {
+		t.Error(o, e)
+	}
+	if _, left, e := All(fresh(t).b, p.s, same, nil, 50); e != api.OK || left != 50 {
+		t.Error(left, e)
+	}
+	q := fresh(t)
+	if _, left, e := All(q.b, q.s, same, []int{0, 1}, 50); e != api.OK || left != 50 {
+		t.Error("an empty recipe uses up fuel", left, e)
+	}
+	twice := parse(t, "package x 1-1\n|file \"a\" = \"\"\npackage x-1 1\n|file \"a\" = \"\"\n")
+	if _, left, e := All(q.b, q.s, twice, []int{0, 1}, 50); e != api.OK || left != 47 {
+		t.Error("what was just built is built again", left, e)
+	}
+	// more inputs, of names that do not rise as the picks do
+	many := "package z 1\nneeds p0 *\nneeds p3 *\nneeds p1 *\nneeds p4 *\nneeds p2 *\n|file \"n\" = str(count())\n"
+	for i := range 5 {
+		many += "package p" + strconv.Itoa(i) + " 1\n|file \"p\" = \"" + strconv.Itoa(i) + "\"\n"
+	}
+	if o, _, e := All(q.b, q.s, parse(t, many), []int{0, 1, 2, 3, 4, 5}, 500); e != api.OK || slices.IsSorted(o[1:]) {
 		t.Error(o, e)
 	}
 	long := []api.Variant{{Name: strings.Repeat("n", 60), Version: "1"}}

@@ -112,6 +112,8 @@ func TestExpressions(t *testing.T) {
 		"1p-1-1":               bin("-", num(0.5), num(1)),
 		"9007199254740991":     num(0x1p53 - 1),
 		"a_1b":                 name("a_1b"),
+		"zaz":                  name("zaz"),
+		"a09":                  name("a09"),
 		"leto":                 name("leto"),
 		"\"\"":                 txt(""),
 		`"a\n\t\"\\b"`:         txt("a\n\t\"\\b"),

@@ -181,6 +181,9 @@ func TestRegister(t *testing.T) {
 		t.Fatal("an error changes it")
 	}
 	want(t, base.Register(a, long, many[:400]), api.OK)
+	if _, e := Open(x); e != api.OK || MaxDeriver != 65536 || MaxGen != 1<<40 {
+		t.Fatal("the longest deriver", e)
+	}
 	if x.Len() != 3 {
 		t.Fatal(x.Len())
 	}

@@ -183,7 +183,7 @@ func TestTrim(t *testing.T) {
 
 // P18.3, P18.4, P18.6
 func TestText(t *testing.T) {
-	for s, want := range map[string][][]int{"1 -2 0\n0\n": row(c(1, -2), c()), "": nil, "0\n0\n": row(c(), c()), "100000 -100000 1 1 0\n": row(c(100000, -100000, 1, 1))} {
+	for s, want := range map[string][][]int{"1 -2 0\n0\n": row(c(1, -2), c()), "": nil, "0\n0\n": row(c(), c()), "100000 -100000 1 1 0\n": row(c(100000, -100000, 1, 1)), "99999 -10 9 0\n": row(c(99999, -10, 9))} {
 		if p, e := Print(want); p != s || e != api.OK {
 			t.Errorf("%q: %q, %d", s, p, e)
 		}

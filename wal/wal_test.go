@@ -64,6 +64,12 @@ func TestExamples(t *testing.T) {
 	if told(l) != "0,,ab" || l.Sure() != 1 {
 		t.Fatal(told(l))
 	}
+	if b, ok := l.Record(0); !ok || string(b) != "ab" {
+		t.Fatal("Record")
+	}
+	if MaxRecord != 1048576 || MaxState != 8000000 {
+		t.Fatal("limits")
+	}
 	want(t, l.Append([]byte("cd")), api.OK)
 	if l.Count() != 2 || l.Sure() != 1 {
 		t.Fatal("sure")
