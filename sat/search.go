@@ -60,7 +60,7 @@ func luby(n int) int {
 	}
 }
 
-// letGo lets go the worse half of what was learned, at level 0, and tells how many learned clauses stay.
+// letGo lets go the worse half of what was learned, at level 0, and tells how many learned clauses stay. That some of these set literals of level 0 does no harm: nothing asks why such hold.
 func (s *solver) letGo() int {
 	var places []int
 	for at, c := range s.clauses {
@@ -74,17 +74,11 @@ func (s *solver) letGo() int {
 	})
 	stay := len(places) / 2
 	for _, at := range places[stay:] {
-		if s.clauses[at].levels <= fewLevels || s.isReason(at) {
+		if s.clauses[at].levels <= fewLevels {
 			stay++
 			continue
 		}
 		s.clauses[at] = nil
 	}
 	return stay
-}
-
-// isReason: was a literal that holds set by a clause?
-func (s *solver) isReason(at int) bool {
-	lit := s.clauses[at].lits[0]
-	return s.is(lit) > 0 && s.reason[abs(lit)] == at
 }

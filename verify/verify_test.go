@@ -246,6 +246,17 @@ func TestErrors(t *testing.T) {
 	p.b.Register(junk, "", nil)
 	p.d.Cut("o."+o, 3)
 	p.d.Append("other", make([]byte, 1<<22-p.d.Used()))
+	// what is left ahead of the error is told rising, though the first one waited for the other one
+	q := fresh(t)
+	o2 := q.build(t, "big", "let s = \"x\"\nfor i = 1 to 12\nlet s = s .. s\nend\nfile \"s\" = s")
+	first, second := strings.Repeat("0", 32)+"-x", strings.Repeat("0", 31)+"1-x"
+	q.b.Register(second, "", nil)
+	q.b.Register(first, "DRV1\x00\x00\x00\x01x\x00\x01\x00\x00\x00\x22"+second+"\x00\x00\x00\x00", nil)
+	q.d.Cut("o."+o2, 3)
+	q.d.Fail(0)
+	if done, left, e := Repair(q.b, q.s, fuel); e != api.ErrDisk || done != nil || !slices.Equal(left, []string{first, second}) {
+		t.Fatal(done, left, e)
+	}
 	if done, left, e := Repair(p.b, p.s, fuel); e != api.ErrFull || done != nil || !slices.Equal(left, []string{junk}) {
 		t.Fatal(done, left, e)
 	}
