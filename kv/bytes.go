@@ -44,14 +44,16 @@ func must(holds bool) {
 	}
 }
 
-// catch recovers bytes that are none, which ok tells; any other panic goes on.
-func catch(ok *bool) {
-	v := recover()
-	if v == nil {
-		return
-	}
-	_ = v.(notBytes)
-	*ok = false
+// readable does something that reads bytes, and tells whether it did not give up; any other panic goes on.
+func readable(do func()) (ok bool) {
+	defer func() {
+		if v := recover(); v != nil {
+			_ = v.(notBytes)
+			ok = false
+		}
+	}()
+	do()
+	return true
 }
 
 // getRow reads a key and a value.
@@ -63,32 +65,34 @@ func getRow(r *fields.Reader) Pair {
 }
 
 // readBatch tells the batch of bytes, and whether they are one's.
-func readBatch(b []byte) (l []Op, ok bool) {
-	ok = true
-	defer catch(&ok)
-	r := fields.Open(b)
-	for range r.Word() {
-		gone := r.Byte()
-		row := getRow(r)
-		must(gone == 0 || gone == 1 && len(row.Value) == 0)
-		l = append(l, Op{row.Key, row.Value, gone == 1})
-	}
-	must(!r.Bad() && r.Left() == 0)
-	return l, true
+func readBatch(b []byte) ([]Op, bool) {
+	var l []Op
+	ok := readable(func() {
+		r := fields.Open(b)
+		for range r.Word() {
+			gone := r.Byte()
+			row := getRow(r)
+			must(gone == 0 || gone == 1 && len(row.Value) == 0)
+			l = append(l, Op{row.Key, row.Value, gone == 1})
+		}
+		must(!r.Bad() && r.Left() == 0)
+	})
+	return l, ok
 }
 
 // readTable tells the rows of a table's bytes, and whether they are one's.
-func readTable(b []byte) (l []Pair, ok bool) {
-	ok = true
-	defer catch(&ok)
-	r := fields.Open(b)
-	last := ""
-	for range r.Word() {
-		row := getRow(r)
-		must(row.Key > last)
-		last = row.Key
-		l = append(l, row)
-	}
-	must(!r.Bad() && r.Left() == 0)
-	return l, true
+func readTable(b []byte) ([]Pair, bool) {
+	var l []Pair
+	ok := readable(func() {
+		r := fields.Open(b)
+		last := ""
+		for range r.Word() {
+			row := getRow(r)
+			must(row.Key > last)
+			last = row.Key
+			l = append(l, row)
+		}
+		must(!r.Bad() && r.Left() == 0)
+	})
+	return l, ok
 }

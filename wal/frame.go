@@ -44,34 +44,36 @@ func unframe(b []byte, kind byte, most uint32) (uint64, []byte) {
 	return n, append([]byte(nil), b[headLen:end]...)
 }
 
-// catch recovers what is not framed, which ok tells; any other panic goes on.
-func catch(ok *bool) {
-	v := recover()
-	if v == nil {
-		return
-	}
-	_ = v.(notFramed)
-	*ok = false
+// framed does something that reads frames, and tells whether it did not give up; any other panic goes on.
+func framed(do func()) (ok bool) {
+	defer func() {
+		if v := recover(); v != nil {
+			_ = v.(notFramed)
+			ok = false
+		}
+	}()
+	do()
+	return true
 }
 
 // readState tells the generation and the state of a state's file, and whether it is one.
-func readState(b []byte) (n int64, state []byte, ok bool) {
-	ok = true
-	defer catch(&ok)
-	g, s := unframe(b, 'K', 1<<32-1)
-	if len(b) != frameLen+len(s) || g < 1 || g > maxGen {
-		panic(notFramed{})
+func readState(b []byte) (int64, []byte, bool) {
+	var n uint64
+	var state []byte
+	ok := framed(func() { n, state = unframe(b, 'K', 1<<32-1) })
+	if !ok || len(b) != frameLen+len(state) || n < 1 || n > maxGen {
+		return 0, nil, false
 	}
-	return int64(g), s, true
+	return int64(n), state, true
 }
 
 // record tells the record with which b begins, and whether it is that of a number.
-func record(b []byte, number uint64) (bytes []byte, ok bool) {
-	ok = true
-	defer catch(&ok)
-	n, bytes := unframe(b, 'R', MaxRecord)
-	if n != number {
-		panic(notFramed{})
+func record(b []byte, number uint64) ([]byte, bool) {
+	var n uint64
+	var bytes []byte
+	ok := framed(func() { n, bytes = unframe(b, 'R', MaxRecord) })
+	if !ok || n != number {
+		return nil, false
 	}
 	return bytes, true
 }

@@ -40,8 +40,8 @@ func told(l *Log) string {
 	return strings.Join(s, ",")
 }
 
-// framed is a frame by the document's words.
-func framed(kind byte, n uint64, b []byte) []byte {
+// byWords is a frame by the document's words.
+func byWords(kind byte, n uint64, b []byte) []byte {
 	f := []byte{kind}
 	for i := 7; i >= 0; i-- {
 		f = append(f, byte(n>>(8*i)))
@@ -93,14 +93,14 @@ func TestFiles(t *testing.T) {
 	l.Append([]byte("one"))
 	l.Append(nil)
 	b, _ := d.Read("log.0")
-	if !bytes.Equal(b, append(framed('R', 1, []byte("one")), framed('R', 2, nil)...)) || l.Size() != len(b) {
+	if !bytes.Equal(b, append(byWords('R', 1, []byte("one")), byWords('R', 2, nil)...)) || l.Size() != len(b) {
 		t.Fatalf("%x", b)
 	}
 	want(t, l.Checkpoint(nil), api.ErrArg)
 	want(t, l.Commit(), api.OK)
 	want(t, l.Checkpoint([]byte("state")), api.OK)
 	b, _ = d.Read("ck")
-	if !bytes.Equal(b, framed('K', 1, []byte("state"))) {
+	if !bytes.Equal(b, byWords('K', 1, []byte("state"))) {
 		t.Fatalf("%x", b)
 	}
 	l.Append([]byte("x"))
@@ -126,8 +126,8 @@ func TestFiles(t *testing.T) {
 
 // P5.1: what is no state's file
 func TestBadState(t *testing.T) {
-	good := framed('K', 3, []byte("ab"))
-	wrong := [][]byte{nil, good[:5], good[:len(good)-1], append(slices.Clone(good), 0), framed('R', 3, []byte("ab")), framed('K', 0, nil), framed('K', 1<<62+1, nil), framed('K', math.MaxUint64, nil)}
+	good := byWords('K', 3, []byte("ab"))
+	wrong := [][]byte{nil, good[:5], good[:len(good)-1], append(slices.Clone(good), 0), byWords('R', 3, []byte("ab")), byWords('K', 0, nil), byWords('K', 1<<62+1, nil), byWords('K', math.MaxUint64, nil)}
 	for i := range good {
 		w := slices.Clone(good)
 		w[i] ^= 4
@@ -146,7 +146,7 @@ func TestBadState(t *testing.T) {
 	}
 	for _, g := range []uint64{1, 3, 1 << 62} {
 		d := disk.New(quota)
-		d.Append("ck", framed('K', g, []byte("ab")))
+		d.Append("ck", byWords('K', g, []byte("ab")))
 		if l := open(t, d); l.Generation() != int64(g) || string(l.State()) != "ab" {
 			t.Fatal(told(l))
 		}
@@ -155,9 +155,9 @@ func TestBadState(t *testing.T) {
 
 // P5.1: what stands behind the records is cut
 func TestBadRecords(t *testing.T) {
-	one, two := framed('R', 1, []byte("one")), framed('R', 2, []byte("two"))
-	long := framed('R', 2, make([]byte, MaxRecord+1))
-	for _, tail := range [][]byte{{}, {'R'}, two[:len(two)-1], framed('R', 3, nil), framed('K', 2, nil), framed('R', 1, nil), long, append(framed('K', 2, nil), two...), bytes.Repeat([]byte{255}, 40)} {
+	one, two := byWords('R', 1, []byte("one")), byWords('R', 2, []byte("two"))
+	long := byWords('R', 2, make([]byte, MaxRecord+1))
+	for _, tail := range [][]byte{{}, {'R'}, two[:len(two)-1], byWords('R', 3, nil), byWords('K', 2, nil), byWords('R', 1, nil), long, append(byWords('K', 2, nil), two...), bytes.Repeat([]byte{255}, 40)} {
 		d := disk.New(quota)
 		d.Append("log.0", append(slices.Clone(one), tail...))
 		l := open(t, d)
@@ -180,7 +180,7 @@ func TestBadRecords(t *testing.T) {
 		}
 	}
 	d := disk.New(quota)
-	d.Append("log.0", framed('R', 1, make([]byte, MaxRecord)))
+	d.Append("log.0", byWords('R', 1, make([]byte, MaxRecord)))
 	if l := open(t, d); l.Count() != 1 {
 		t.Fatal("the longest record")
 	}
