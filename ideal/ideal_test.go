@@ -271,6 +271,105 @@ func mayBe(s State) bool {
 	return s.Current == 0 || s.place(s.Current) >= 0
 }
 
+// do does a call of a profile, and tells its answer.
+func do(p *profile.Profile, c Call, fuel int) Answer {
+	a := Answer{}
+	switch c.Kind {
+	case Install:
+		a.N, a.E = p.Install(c.Text, c.Words, fuel)
+	case Remove:
+		a.N, a.E = p.Remove(c.Text, c.Words, fuel)
+	case Rollback:
+		a.N, a.E = p.Rollback()
+	case Switch:
+		a.E = p.Switch(c.N)
+	case Delete:
+		a.E = p.Delete(c.N)
+	}
+	if g, e := p.Load(a.N); e == api.OK {
+		a.Picks = g.Picks
+	}
+	return a
+}
+
+// read tells a profile's state.
+func read(t *testing.T, p *profile.Profile) State {
+	t.Helper()
+	s := State{}
+	for _, n := range p.Generations() {
+		g, e := p.Load(n)
+		if e != api.OK {
+			t.Fatal(e)
+		}
+		s.Gens = append(s.Gens, Gen{n, g.Wants, g.Picks})
+		for rest := g.Objects; len(rest) > 0; rest = rest[1:] {
+			if _, e := p.Tree(rest[0]); e != api.OK {
+				t.Fatal(rest[0], e)
+			}
+			rest = append(rest[:len(rest):len(rest)], p.Refs(rest[0])...)
+		}
+	}
+	s.Current, _ = p.Current()
+	return s
+}
+
+// P0.2, P0.3: scripts of any calls, amid which the power goes, again and again.
+func TestPower(t *testing.T) {
+	told := strings.ReplaceAll(linked, "package b", "|for i = 0 to count() - 1\n|file str(i) = input(i)\n|end\npackage b")
+	words := []string{"a", "b", "c", "d", "a@=2", "b@=1", "d a", "c b@<2"}
+	kinds := []uint8{Install, Install, Install, Remove, Rollback, Switch, Delete}
+	crashes := 0
+	for seed := range int64(60) {
+		r := rand.New(rand.NewSource(seed))
+		d := disk.New(1 << 20)
+		p, _ := profile.Open(d)
+		s := State{}
+		for range 40 {
+			c := Call{Kind: kinds[r.Intn(len(kinds))], Text: told, Words: words[r.Intn(len(words))], N: int64(r.Intn(9))}
+			d.Fail(r.Intn(25))
+			var a Answer
+			if r.Intn(6) == 0 {
+				if _, e := p.Collect(); e != api.OK && e != api.ErrDisk {
+					t.Fatal(e)
+				}
+				c.Kind, c.N, a.E = Switch, 0, api.ErrGen // which changes nothing
+			} else {
+				a = do(p, c, 1000)
+			}
+			for d.Off() {
+				crashes++
+				var keep []int
+				for range 12 {
+					keep = append(keep, r.Intn(300)*r.Intn(2))
+				}
+				d.On(keep)
+				d.Fail(r.Intn(4) - 1)
+				if q, e := profile.Open(d); e == api.OK {
+					p = q
+				} else if e != api.ErrDisk {
+					t.Fatal(e)
+				}
+			}
+			d.Fail(-1)
+			now := read(t, p)
+			if a.E != api.OK && !Same(now, s) {
+				// the call under way was done as a whole: then it may have been answered so
+				n, _ := p.Current()
+				g, _ := p.Load(n)
+				a = Answer{N: n, Picks: g.Picks}
+			}
+			next, allowed := Allow(s, c, a)
+			if !allowed || !Same(next, now) {
+				t.Fatalf("seed %d: %v %v: %v, then %v", seed, c, a, s, now)
+			}
+			s = now
+		}
+	}
+	if crashes < 200 {
+		t.Fatal(crashes)
+	}
+}
+
 // P30.7, P0.1: what a profile answers is allowed, and the state is the profile's.
 func TestFollows(t *testing.T) {
 	words := []string{"a", "b", "c", "d", "a@=2", "b@=1", "b@>=2", "d a", "c b@<2", "e", "a@", ""}
@@ -285,23 +384,7 @@ func TestFollows(t *testing.T) {
 			if r.Intn(12) == 0 {
 				c.Text = "junk"
 			}
-			fuel := 100
-			a := Answer{}
-			switch c.Kind {
-			case Install:
-				a.N, a.E = p.Install(c.Text, c.Words, fuel)
-			case Remove:
-				a.N, a.E = p.Remove(c.Text, c.Words, fuel)
-			case Rollback:
-				a.N, a.E = p.Rollback()
-			case Switch:
-				a.E = p.Switch(c.N)
-			case Delete:
-				a.E = p.Delete(c.N)
-			}
-			if g, e := p.Load(a.N); e == api.OK {
-				a.Picks = g.Picks
-			}
+			a := do(p, c, 100)
 			next := allow(t, s, c, a)
 			if a.E != api.OK && !Same(next, s) || !mayBe(next) {
 				t.Fatal("a failure changes it")
