@@ -259,16 +259,107 @@ func TestReadOnly(t *testing.T) {
 	}
 }
 
-// mayBe: may a state be?
-func mayBe(s State) bool {
-	last := int64(0)
-	for _, g := range s.Gens {
-		if g.N <= last || g.N > 1<<40 {
+// may: may a state be, by the document's words?
+func may(s State) bool {
+	current := s.Current == 0
+	for i, g := range s.Gens {
+		if g.N < 1 || g.N > 1<<40 || i > 0 && s.Gens[i-1].N >= g.N {
 			return false
 		}
-		last = g.N
+		current = current || g.N == s.Current
 	}
-	return s.Current == 0 || s.place(s.Current) >= 0
+	return current
+}
+
+// gens are generations of these numbers.
+func gens(numbers ...int64) []Gen {
+	var l []Gen
+	for _, n := range numbers {
+		l = append(l, Gen{n, []string{"b"}, []string{"b 2"}})
+	}
+	return l
+}
+
+// P30.4: a state that may not be stays, whatever is asked for and answered.
+func TestStateThatMayNotBe(t *testing.T) {
+	calls := []Call{{}, {Kind: 9}, {Kind: Rollback}, install("junk", ""), install(text, "a"), install(text, "c"), remove(text, "b"), remove(text, "x")}
+	for _, n := range []int64{math.MinInt64, -1, 0, 1, 2, 3, 1<<40 + 1, math.MaxInt64} {
+		calls = append(calls, Call{Kind: Switch, N: n}, Call{Kind: Delete, N: n})
+	}
+	var answers []Answer
+	for _, n := range []int64{math.MinInt64, -1, 0, 1, 2, 3, 4, 1<<40 + 1} {
+		answers = append(answers, ok(n), ok(n, "b 2"), ok(n, "a 1"), ok(n, "a 1", "b 2"))
+	}
+	for e := api.Errno(-1); e < 300; e++ {
+		answers = append(answers, fails(e))
+	}
+	for _, s := range []State{
+		{nil, -1}, {nil, 1}, {nil, math.MinInt64}, {[]Gen{}, math.MaxInt64},
+		{gens(1), 2}, {gens(1), -1}, {gens(1, 3), 2}, {gens(1, 3), math.MaxInt64},
+		{gens(2, 1), 0}, {gens(2, 1), 1}, {gens(2, 1), 2}, {gens(1, 3, 2), 1},
+		{gens(2, 2), 0}, {gens(2, 2), 2}, {gens(1, 2, 2), 1}, {gens(1, 1, 2), 2},
+		{gens(0), 0}, {gens(0, 1), 1}, {gens(-1, 1), 1}, {gens(-1), -1}, {gens(math.MinInt64), 0},
+		{gens(1<<40 + 1), 0}, {gens(1, 1<<40+1), 1}, {gens(1<<40 + 1), 1<<40 + 1}, {gens(math.MaxInt64), math.MaxInt64},
+	} {
+		if may(s) {
+			t.Fatal("this one may be", s)
+		}
+		for _, c := range calls {
+			_, e := Certain(s, c)
+			bar(t, s, c, fails(e))
+			for _, a := range answers {
+				bar(t, s, c, a)
+			}
+		}
+		next, _ := Allow(s, calls[0], answers[0])
+		for i := range next.Gens {
+			if next.Gens[i].N++; next.Gens[i].N == s.Gens[i].N {
+				t.Fatal("no new memory")
+			}
+		}
+	}
+	// the edges of those that may be
+	for _, s := range []State{{nil, 0}, {gens(1), 0}, {gens(1), 1}, {gens(1 << 40), 1 << 40}, {gens(1, 1<<40), 1}, {gens(1, 2, 1<<40), 2}} {
+		if !may(s) {
+			t.Fatal("this one may not be", s)
+		}
+		allow(t, s, Call{Kind: 9}, fails(api.ErrArg))
+		allow(t, s, Call{Kind: Switch, N: 7}, fails(api.ErrGen))
+		allow(t, s, install(text, "a"), fails(api.ErrFull))
+	}
+}
+
+// P30.4, P30.7: of all states of three small numbers just those that may be allow anything, and what they allow may be.
+func TestStates(t *testing.T) {
+	numbers := []int64{-1, 0, 1, 2, 1 << 40, 1<<40 + 1}
+	var rows [][]Gen
+	rows = append(rows, nil)
+	for _, a := range numbers {
+		rows = append(rows, gens(a))
+		for _, b := range numbers {
+			rows = append(rows, gens(a, b))
+			for _, c := range numbers {
+				rows = append(rows, gens(a, b, c))
+			}
+		}
+	}
+	for _, row := range rows {
+		for _, current := range numbers {
+			s := State{row, current}
+			if _, allowed := Allow(s, Call{}, fails(api.ErrArg)); allowed != may(s) {
+				t.Fatal(s)
+			}
+			for _, n := range numbers {
+				for _, c := range []Call{install(text, "b"), {Kind: Rollback}, {Kind: Switch, N: n}, {Kind: Delete, N: n}} {
+					for _, a := range []Answer{ok(n, "b 2"), ok(Next(s), "b 1"), fails(api.ErrDisk)} {
+						if next, allowed := Allow(s, c, a); allowed && !may(next) || !allowed && !Same(next, s) {
+							t.Fatal(s, c, a, next)
+						}
+					}
+				}
+			}
+		}
+	}
 }
 
 // do does a call of a profile, and tells its answer.
@@ -386,7 +477,7 @@ func TestFollows(t *testing.T) {
 			}
 			a := do(p, c, 100)
 			next := allow(t, s, c, a)
-			if a.E != api.OK && !Same(next, s) || !mayBe(next) {
+			if a.E != api.OK && !Same(next, s) || !may(next) {
 				t.Fatal("a failure changes it")
 			}
 			if a.E == api.OK && c.Kind == Install && s.Current > 0 && s.greatest(next.Current) == s.Current {

@@ -1,7 +1,6 @@
 package ideal
 
 import (
-	"math"
 	"slices"
 	"strings"
 
@@ -145,10 +144,7 @@ func (v *view) become(a Answer) (State, bool) {
 
 // made is the state with a generation more.
 func (v *view) made(a Answer) (State, bool) {
-	if a.N != Next(v.state) || !v.picked(a.Picks) {
-		return State{}, false
-	}
-	if a.N > maxGen || a.N == math.MinInt64 { // the latter is what one more than the greatest number of all wraps to
+	if a.N != Next(v.state) || a.N > maxGen || !v.picked(a.Picks) {
 		return State{}, false
 	}
 	g := Gen{a.N, v.wants, append([]string(nil), a.Picks...)}
