@@ -6,7 +6,7 @@ import "sync"
 // turn is what is put to a register, where its lowest bit and the bit that goes in differ.
 const turn uint32 = 0xEDB88320
 
-// A byte's eight steps hang on the register's lowest byte and on the byte alone, so one table of 256 stands for all.
+// The document asks for the steps of all bytes, made once. Steps alone reads them: Step and Sum hang on nothing but what they are given.
 var (
 	once  sync.Once
 	steps [256]uint32
@@ -17,6 +17,12 @@ func fill() {
 	for c := range 256 {
 		steps[c] = bits(uint32(c))
 	}
+}
+
+// Steps tells, of each byte, the register 0 when it has gone into it.
+func Steps() [256]uint32 {
+	once.Do(fill)
+	return steps
 }
 
 // bits moves a register down by eight bits, into which only noughts go.
@@ -33,8 +39,7 @@ func bits(r uint32) uint32 {
 
 // Step tells a register into which a byte has gone.
 func Step(r uint32, c byte) uint32 {
-	once.Do(fill)
-	return steps[byte(r)^c] ^ r>>8
+	return bits(r ^ uint32(c))
 }
 
 // Sum tells the check of bytes.

@@ -39,6 +39,44 @@ func TestStep(t *testing.T) {
 	}
 }
 
+// P1.1, Ways: the array and the function answer alike for all bytes; what is told of the array is new memory.
+func TestSteps(t *testing.T) {
+	l := Steps()
+	for c := range 256 {
+		if l[c] != Step(0, byte(c)) || l[c] != slow(0, byte(c)) {
+			t.Errorf("%x: %x, %x", c, l[c], Step(0, byte(c)))
+		}
+		for _, r := range rows() {
+			if Step(r, byte(c)) != l[byte(r)^byte(c)]^r>>8 {
+				t.Fatalf("Step(%x, %x) = %x", r, c, Step(r, byte(c)))
+			}
+		}
+	}
+	was := l
+	clear(l[:])
+	if Steps() != was {
+		t.Error("what was told is kept")
+	}
+}
+
+// Ways: the array is made once, and Step and Sum do without it.
+func TestWithoutSteps(t *testing.T) {
+	was := Steps()
+	defer func() { steps = was }()
+	steps = [256]uint32{7: 7}
+	if Steps() != steps {
+		t.Error("made again")
+	}
+	for c := range 256 {
+		if Step(0, byte(c)) != was[c] || Sum([]byte{byte(c)}) != crc32.ChecksumIEEE([]byte{byte(c)}) {
+			t.Fatalf("%x: %x", c, Step(0, byte(c)))
+		}
+	}
+	if Sum([]byte("123456789")) != 0xCBF43926 || steps != [256]uint32{7: 7} {
+		t.Error("asked of, or made again")
+	}
+}
+
 // P1.2
 func TestSum(t *testing.T) {
 	for s, want := range map[string]uint32{"123456789": 0xCBF43926, "": 0, "\x00": 0xD202EF8D} {
